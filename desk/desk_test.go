@@ -628,6 +628,54 @@ func TestManyNets(t *testing.T) {
 	enough(t, came, 500)
 }
 
+// An office goes op by op as Play goes, and one that is copied at its beginning begins there again.
+func TestOffice(t *testing.T) {
+	done := 0
+	many(1000, func(n api.Net, roles [][]int, next func(below int) int) {
+		i, ops := next(n.Places), someOps(n, next, 30)
+		first, err := Open(n, i, roles)
+		if err != api.OK {
+			t.Fatalf("%v at %d: %d", n, i, err)
+		}
+		for range 2 {
+			now := first
+			for k, op := range ops {
+				a := now.Do(op)
+				want, answers, _ := Play(n, i, roles, ops[:k+1])
+				if a != answers[k] || !sameDesk(now.Desk, want) {
+					t.Fatalf("%v at %d, %v, op %d of %v: %v, %v, not %v, %v", n, i, roles, k, ops, a, now.Desk, answers[k], want)
+				}
+			}
+			done += len(now.Desk.Items)
+		}
+	})
+	if done < 1000 {
+		t.Errorf("%d items: too few to tell", done)
+	}
+	if o, err := Open(row(), 4, staff()); err != api.ErrNone || !reflect.DeepEqual(o, Office{}) {
+		t.Errorf("no place to begin at: %v, %d", o, err)
+	}
+}
+
+// Whoever opened an office may change what was handed in: it goes on as it was opened.
+func TestOfficeKeepsNothing(t *testing.T) {
+	n, roles := row(), staff()
+	o, _ := Open(n, 0, roles)
+	for k := range n.Trans {
+		n.Trans[k].Pre[0], n.Trans[k].Post[1] = 9, 9
+	}
+	n.Trans[0].Label, roles[0][0] = 9, 9
+	n.Trans[2] = api.Tran{}
+	for _, op := range []api.DeskOp{begin(0, 0), end(0, 0), skip(1), begin(1, 2), end(1, 1)} {
+		if a := o.Do(op); a.Err != api.OK {
+			t.Errorf("%v: %v", op, a)
+		}
+	}
+	if !slices.Equal(o.Desk.Case.Mark, one(4, 3)) {
+		t.Errorf("%v", o.Desk)
+	}
+}
+
 // Without what had an error all else is answered as with it.
 func TestErrorsChangeNothing(t *testing.T) {
 	left := 0

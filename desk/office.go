@@ -1,19 +1,45 @@
 package desk
 
 import (
+	"slices"
+
 	"tokenhall/api"
 	"tokenhall/cases"
 )
 
-// office is a desk, with all that decides what can be done there; its net must not be wrong.
-type office struct {
+// Office is a desk at work, with all that decides what can be done there.
+type Office struct {
+	Desk api.Desk
 	net  api.Net
 	may  rights
-	desk api.Desk
+}
+
+// Open answers the office of which nothing was done yet; a copy of it goes on on its own.
+func Open(n api.Net, i int, roles [][]int) (Office, api.Errno) {
+	c, err := cases.Begin(n, i)
+	if err != api.OK {
+		return Office{}, err
+	}
+	return Office{Desk: api.Desk{Case: c}, net: copied(n), may: rightsOf(roles)}, api.OK
+}
+
+// copied is for the time behind Open: whoever handed n in may change it, and the office goes on.
+func copied(n api.Net) api.Net {
+	out := api.Net{Places: n.Places}
+	for _, t := range n.Trans {
+		out.Trans = append(out.Trans, api.Tran{Label: t.Label, Pre: slices.Clone(t.Pre), Post: slices.Clone(t.Post)})
+	}
+	return out
+}
+
+// Do moves the desk on by op, and answers what came of it; what has an error changes nothing.
+func (o *Office) Do(op api.DeskOp) api.DeskAns {
+	item, err := o.do(op)
+	return api.DeskAns{Err: err, Item: item}
 }
 
 // do answers the item that op tells of; beside an error, and where there is none, that is 0.
-func (o *office) do(op api.DeskOp) (int, api.Errno) {
+func (o *Office) do(op api.DeskOp) (int, api.Errno) {
 	switch op.Kind {
 	case api.DeskBegin:
 		return o.begin(op)
@@ -29,7 +55,7 @@ func (o *office) do(op api.DeskOp) (int, api.Errno) {
 	return 0, api.ErrKind
 }
 
-func (o *office) begin(op api.DeskOp) (int, api.Errno) {
+func (o *Office) begin(op api.DeskOp) (int, api.Errno) {
 	// Whether somebody may do it can be asked only of what there is.
 	if op.Tran < 0 || op.Tran >= len(o.net.Trans) {
 		return 0, api.ErrNone
@@ -40,12 +66,12 @@ func (o *office) begin(op api.DeskOp) (int, api.Errno) {
 	if err := o.work(api.CaseBegin, op.Tran); err != api.OK {
 		return 0, err
 	}
-	o.desk.Items = append(o.desk.Items, api.Item{User: op.User, Tran: op.Tran, Open: true})
-	return len(o.desk.Items) - 1, api.OK
+	o.Desk.Items = append(o.Desk.Items, api.Item{User: op.User, Tran: op.Tran, Open: true})
+	return len(o.Desk.Items) - 1, api.OK
 }
 
 // leave is for work that no longer goes on: kind says whether it was ended or given back.
-func (o *office) leave(op api.DeskOp, kind int) (int, api.Errno) {
+func (o *Office) leave(op api.DeskOp, kind int) (int, api.Errno) {
 	item, err := o.held(op)
 	if err != api.OK {
 		return 0, err
@@ -57,7 +83,7 @@ func (o *office) leave(op api.DeskOp, kind int) (int, api.Errno) {
 	return op.Item, api.OK
 }
 
-func (o *office) give(op api.DeskOp) (int, api.Errno) {
+func (o *Office) give(op api.DeskOp) (int, api.Errno) {
 	item, err := o.held(op)
 	if err != api.OK {
 		return 0, err
@@ -70,11 +96,11 @@ func (o *office) give(op api.DeskOp) (int, api.Errno) {
 }
 
 // held answers the open item that op names, if its user is the one who asks.
-func (o *office) held(op api.DeskOp) (*api.Item, api.Errno) {
-	if op.Item < 0 || op.Item >= len(o.desk.Items) {
+func (o *Office) held(op api.DeskOp) (*api.Item, api.Errno) {
+	if op.Item < 0 || op.Item >= len(o.Desk.Items) {
 		return nil, api.ErrNone
 	}
-	item := &o.desk.Items[op.Item]
+	item := &o.Desk.Items[op.Item]
 	if !item.Open {
 		return nil, api.ErrNone
 	}
@@ -85,15 +111,15 @@ func (o *office) held(op api.DeskOp) (*api.Item, api.Errno) {
 }
 
 // work moves the case on; what has an error leaves it as it is.
-func (o *office) work(kind, tran int) api.Errno {
-	next, err := cases.Do(o.net, o.desk.Case, api.CaseOp{Kind: kind, Tran: tran})
+func (o *Office) work(kind, tran int) api.Errno {
+	next, err := cases.Do(o.net, o.Desk.Case, api.CaseOp{Kind: kind, Tran: tran})
 	if err == api.OK {
-		o.desk.Case = next
+		o.Desk.Case = next
 	}
 	return err
 }
 
 // allowed is asked of transitions that there are; users of whom nothing is told may do nothing.
-func (o *office) allowed(user, tran int) bool {
+func (o *Office) allowed(user, tran int) bool {
 	return 0 <= user && user < api.MaxUsers && o.may[user][o.net.Trans[tran].Label]
 }
